@@ -408,7 +408,7 @@ func TestEveryNumberOfFourFigures(t *testing.T) {
 
 func TestEveryPairOfHalves(t *testing.T) {
 	for first := 55296; first <= 56319; first++ {
-		for second := 56320; second <= 57343; second += 1 + first%5 {
+		for second := 56320; second <= 57343; second++ {
 			s := `"\u` + strconv.FormatInt(int64(first), 16) + `\u` + strconv.FormatInt(int64(second), 16) + `"`
 			want := scalarBytes(65536 + 1024*(first-55296) + second - 56320)
 			if got, ok := impl.Unescaped(s); !ok || got != want {
