@@ -381,15 +381,15 @@ func fewTokens() []impl.Token {
 	return []impl.Token{tok(1, "{", 0), tok(1, "!", 0), points, tok(2, "a", 0), tok(2, "e5", 0), tok(3, "0", 0), tok(3, "-1", 0), tok(4, "1e5", 0), tok(4, "-0.5", 0), tok(5, "", 0), tok(5, "\"", 0), tok(5, "a\\", 0)}
 }
 
-func eachList(tokens []impl.Token, most int, see func([]impl.Token)) {
-	var grow func([]impl.Token)
-	grow = func(list []impl.Token) {
+func eachList[T any](signs []T, most int, see func([]T)) {
+	var grow func([]T)
+	grow = func(list []T) {
 		see(list)
 		if len(list) == most {
 			return
 		}
-		for _, token := range tokens {
-			grow(append(slices.Clone(list), token))
+		for _, sign := range signs {
+			grow(append(slices.Clone(list), sign))
 		}
 	}
 	grow(nil)
